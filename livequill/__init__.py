@@ -1,0 +1,1 @@
+"""Livequill: a small language whose programs are changed while they run."""

@@ -1,0 +1,1 @@
+"""Code: the chunks of a program."""

@@ -1,0 +1,1 @@
+"""Live programs: programs that are changed while they run."""

@@ -1,0 +1,1 @@
+"""Texts and trees: tokens, the grammar, terms, and the canonical text."""

@@ -1,0 +1,1 @@
+"""Values: objects, the store that holds them, kinds, truth and equality."""
