@@ -41,7 +41,8 @@ def scope_after(item, scope):
     if item[0] == "let":
         return (item[2], *scope)
     if item[0] == "group":
-        return tuple([member[1] for member in item[1]]) + scope
+        names = [member[1] for member in item[1]]
+        return (*names, *scope)
     return scope
 
 
@@ -86,7 +87,7 @@ def place_methods(term, scope):
 
 
 def place_body(function, scope):
-    return [(function[4], function[3] + scope, "")]
+    return [(function[4], (*function[3], *scope), "")]
 
 
 def place_loop(term, scope):
