@@ -29,6 +29,7 @@ BARRED_ATTRIBUTES = set(
     "items keys values pop update append clear extend insert remove reverse setdefault sort args encode decode hex "
     "fromhex format format_map mro register elements open input law".split())
 DUNDERS = set("__init__ __eq__ __repr__ __str__ __len__".split())
+MATH = {"gcd", "lcm", "isqrt", "comb", "perm", "factorial"}
 LAZY = {"zip", "enumerate", "range", "reversed"}
 VIEWS = {"items", "keys", "values"}
 TAKERS = {"list", "tuple", "dict", "sorted", "sum", "any", "all", "enumerate", "zip", "min", "max"}
@@ -155,12 +156,30 @@ class Form:
             source = self.by_module.get(node.module or "")
             if seen_other:
                 self.tell("L2", file, node, "an import that is not at the top")
+            if node.module == "math":
+                self.check_math(file, node)
+                continue
             if source is None or node.level:
                 self.tell("L2", file, node, f"imports from {node.module}")
                 continue
             for name in node.names:
                 if name.asname or name.name not in source.defined():
                     self.tell("L16", file, node, f"{name.name} is not defined in {node.module}")
+
+    def check_math(self, file, node):
+        """A name from `math` is imported plainly, and only called, in functions, with arguments by position."""
+        for name in node.names:
+            if name.asname or name.name not in MATH:
+                self.tell("L2", file, node, f"imports {name.name} from math")
+            for part in ast.walk(file.tree):
+                if name.name in bound_names(part):
+                    self.tell("L2", file, part, f"{name.name} is another thing, too")
+                if isinstance(part, ast.Name) and part.id == name.name:
+                    call = part.parent
+                    called = isinstance(call, ast.Call) and call.func is part and not call.keywords
+                    if not called or part in [inner for top in file.tree.body if isinstance(top, ast.Assign)
+                                              for inner in ast.walk(top)]:
+                        self.tell("L2", file, part, f"{name.name} is not called")
 
     def check_top(self, file):
         for at, node in enumerate(file.tree.body):

@@ -28,6 +28,14 @@ class CheckTest(unittest.TestCase):
     def test_sound_code(self):
         self.assertEqual(self.breaches('"""A file."""\n\nMOST = 3\n\n\ndef half(number):\n    return number // 2\n'), [])
 
+    def test_names_from_math(self):
+        head = "from math import gcd, isqrt\n\n\n"
+        self.assertEqual(self.breaches(head + "def f(x, y):\n    return gcd(x, isqrt(y))\n"), [])
+        for text in ("from math import floor\n", "from math import gcd as g\n", head + "def f(gcd):\n    return gcd\n",
+                     head + "def f(x):\n    y = isqrt\n    return y(x)\n", head + "MOST = gcd(4, 6)\n"):
+            with self.subTest(text):
+                self.assertIn("L2", self.breaches(text))
+
     def test_breaches(self):
         texts = {
             "L2": "from os import path\n",

@@ -19,6 +19,25 @@ FUNCTIONS = {
     "names.places": {"place_of": ["text", "offset"], "changed": ["text", "start", "stop", "new"]},
     "values.kinds": {"kind_of": ["store", "value"], "is_true": ["value"], "equal": ["x", "y"], "is_key": ["value"],
                      "is_below": ["store", "kin", "other"], "method_of": ["store", "kin", "name"]},
+    "values.operators": {
+        "unary": ["store", "operator", "x"], "binary": ["store", "operator", "x", "y"],
+        "get_item": ["store", "x", "i"], "set_item": ["store", "x", "i", "value"],
+        "make_list": ["store", "values"], "make_map": ["store", "pairs"],
+        "get_field": ["store", "x", "name"], "set_field": ["store", "x", "name", "value"],
+        "make_class": ["store", "name", "parent"], "make_cursor": ["store", "x"], "next_of": ["store", "ref"],
+        "make_error": ["store", "error"],
+    },
+    "values.calls": {"call_builtin": ["store", "name", "values"], "call_method": ["store", "x", "name", "values"]},
+    "values.written": {"write_value": ["store", "value", "most"], "text_of": ["store", "value", "most"],
+                       "show": ["store", "value"]},
+    "code.translate": {"translate": ["tree"], "translate_expression": ["term", "scope", "number"]},
+    "code.written": {"write_code": ["chunks"]},
+    "code.reading": {"read_code": ["text"]},
+    "code.flaws": {"flaws_of": ["chunks"]},
+    "asking.places": {
+        "told_offset": ["row"], "next_row": ["machine", "frame"], "next_line": ["program", "machine"],
+        "places_of": ["program", "machine"], "failure_of": ["program", "machine"], "told": ["store", "value"],
+    },
     "live.functions": {"changed_functions": ["old", "new"]},
 }
 CLASSES = {
@@ -35,6 +54,18 @@ CLASSES = {
     },
     "values.store": {"Store": ["make", "at", "fork"]},
     "code.chunks": {"Chunk": ["__eq__"]},
+    "meaning.meaning": {"Meaning": ["go_on"]},
+    "machine.frames": {"Frame": []},
+    "machine.machine": {"Machine": ["step", "run", "status", "fork", "chunk_of"]},
+    "asking.program": {"Program": ["start", "after", "function_of"]},
+}
+ARGUMENTS = {
+    "values.refs": {"Ref": ["number"], "Builtin": ["name"]}, "values.store": {"Store": ["lines"]},
+    "code.chunks": {"Chunk": ["number", "wanted", "rows", "scopes"]},
+    "meaning.meaning": {"Meaning": ["tree", "lines"]}, "machine.frames": {"Frame": ["number", "scope"]},
+    "machine.machine": {"Machine": ["chunks", "lines"]}, "asking.program": {"Program": ["text"]},
+    "errors": {"ScriptError": ["kind", "message"], "InvalidText": ["offset", "message"],
+               "InvalidCode": ["offset", "message"]},
 }
 CONSTANTS = {
     "names.language": ["FUNCTION_NAMES"], "names.faults": ["MOST_ARGUMENTS", "MOST_PARAMETERS", "MOST_FUNCTIONS"],
@@ -68,6 +99,15 @@ class InterfaceTest(unittest.TestCase):
                 with self.subTest(f"{module}.{name}"):
                     own = [node.name for node in found[name].body if isinstance(node, ast.FunctionDef)]
                     self.assertEqual([method for method in methods if method not in own], [])
+
+    def test_arguments_of_classes(self):
+        for module, classes in ARGUMENTS.items():
+            found = definitions(module, ast.ClassDef)
+            for name, arguments in classes.items():
+                with self.subTest(f"{module}.{name}"):
+                    (init,) = [node for node in found[name].body
+                               if isinstance(node, ast.FunctionDef) and node.name == "__init__"]
+                    self.assertEqual([argument.arg for argument in init.args.args], ["self", *arguments])
 
     def test_constants(self):
         for module, names in CONSTANTS.items():

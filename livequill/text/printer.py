@@ -3,6 +3,7 @@
 from livequill.text.levels import (
     AND, ASSIGNMENT, COMPARISON, NOT, OPERATORS, OR, SIGN, SUFFIXED, SUM,
 )
+from livequill.text.quoted import quoted
 
 INDENT = "  "
 
@@ -190,8 +191,7 @@ def write_number(term, indent, first):
 
 
 def write_text(term, indent, first):
-    held = term[1].replace("\\", "\\\\").replace("\"", "\\\"").replace("\n", "\\n")
-    return "\"" + held + "\""
+    return quoted(term[1])
 
 
 def write_name(term, indent, first):

@@ -30,3 +30,8 @@ class Builtin:
 
     def __repr__(self):
         return f"Builtin({self.name!r})"
+
+
+def value_named(name):
+    """Returns the built-in function with a name of the language, or the class Error."""
+    return Builtin(name) if name in BUILTINS else Ref(0)

@@ -1,0 +1,1 @@
+"""Questions about a machine: places and failures."""

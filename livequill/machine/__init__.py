@@ -1,0 +1,1 @@
+"""The machine: frames, and what its calls do."""

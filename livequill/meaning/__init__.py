@@ -1,0 +1,1 @@
+"""The meaning of a program, told by its tree alone."""
