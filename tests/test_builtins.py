@@ -17,12 +17,12 @@ NOTHING = ("ValueError", "nothing to choose from")
 
 # The kinds of the arguments that are asked for by kind alone; the numbers of arguments that there may be.
 KINDS = {
-    "read": (), "str": ("any",), "kind": ("any",), "int": ("any",), "len": ("list text map",), "abs": ("integer",),
+    "read": (), "str": ("any",), "kind": ("any",), "int": ("integer text",), "len": ("list text map",), "abs": ("integer",),
     "pow": ("integer", "integer"), "gcd": ("integer", "integer"), "sqrt": ("integer",),
     "base": ("integer", "integer"), "parse": ("text", "integer"), "char": ("integer",),
     "assert": ("any", "text"), "copy": ("any",), "equals": ("any", "any"),
 }
-FITTING = {"any": None, "integer": 5, "text": "5", "list text map": "ab"}
+FITTING = {"any": None, "integer": 5, "text": "5", "integer text": 5, "list text map": "ab"}
 
 
 class BuiltinTest(unittest.TestCase):
@@ -174,7 +174,10 @@ class IntegersTest(BuiltinTest):
     def test_int_of_other_kinds(self):
         for kind, value in self.values:
             if kind not in ("integer", "text"):
-                self.assertEqual(self.refused("int", value), NOT_AN_INTEGER)
+                self.assertEqual(self.refused("int", value), WRONG)
+        # The text that writes no integer has the right kind; the number of arguments counts ahead of kinds.
+        self.assertEqual(self.refused("int", "null"), NOT_AN_INTEGER)
+        self.assertEqual(self.refused("int", None, None), arity(1, 2))
 
     def test_abs(self):
         self.check("abs", [(5, 5), (-5, 5), (0, 0), (-MOST, MOST)])

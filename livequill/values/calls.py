@@ -117,8 +117,7 @@ def as_text(store, x):
 def as_integer(store, x):
     if kind_of(store, x) == "integer":
         return x
-    if kind_of(store, x) != "text":
-        raise ScriptError("ValueError", "not an integer")
+    check_kind(store, x, "text")
     return read_in(x, 10)
 
 
