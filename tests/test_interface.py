@@ -38,7 +38,26 @@ FUNCTIONS = {
         "told_offset": ["row"], "next_row": ["machine", "frame"], "next_line": ["program", "machine"],
         "places_of": ["program", "machine"], "failure_of": ["program", "machine"], "told": ["store", "value"],
     },
+    "asking.variables": {
+        "names_of": ["program", "frame"], "variables_of": ["program", "machine", "frame"],
+        "variable_of": ["program", "frame", "name"],
+    },
+    "asking.running": {"run_on": ["program", "machine", "lines", "mode", "most"]},
+    "asking.evaluating": {"evaluate": ["program", "machine", "frame", "text"]},
+    "asking.searches": {
+        "changes_of": ["program", "lines", "count", "ref"], "visits_of": ["program", "lines", "count", "line"],
+        "printed_by": ["program", "lines", "count", "index"], "profile_of": ["program", "lines", "count"],
+        "coverage_of": ["program", "lines", "count"], "trace_of": ["program", "lines", "first", "last"],
+    },
     "live.functions": {"changed_functions": ["old", "new"]},
+    "live.comparing": {"preview": ["live", "start", "stop", "new"], "blame": ["live", "index"]},
+    "live.saved": {"save_live": ["live"], "load_live": ["text"]},
+    "heap.objects": {"children_of": ["store", "number"], "roots_of": ["machine"], "sort_of": ["store", "number"],
+                     "size_of": ["store", "number"]},
+    "heap.reach": {"reached_from": ["store", "numbers"], "lost_objects": ["machine"], "way_to": ["machine", "number"],
+                   "counts_of": ["store"]},
+    "rewriting.notes": {"notes_of": ["tree"]}, "rewriting.simpler": {"simpler": ["tree"]},
+    "rewriting.build": {"build": ["tree"]},
 }
 CLASSES = {
     "errors": {
@@ -58,6 +77,15 @@ CLASSES = {
     "machine.frames": {"Frame": []},
     "machine.machine": {"Machine": ["step", "run", "status", "fork", "chunk_of"]},
     "asking.program": {"Program": ["start", "after", "function_of"]},
+    "live.live": {"Live": [
+        "text_now", "steps_made", "output_lines", "status", "edit", "undo", "unfeed", "feed", "step", "go", "run", "set_breaks",
+        "where", "failure", "variables", "evaluate", "changes", "visits", "printed", "profile", "coverage", "trace"]},
+}
+# The arguments of the methods of a live program.
+LIVE = {
+    "edit": ["start", "stop", "new"], "feed": ["line"], "step": ["count"], "go": ["count"], "run": ["mode"],
+    "set_breaks": ["lines"], "variables": ["index"], "evaluate": ["index", "text"], "changes": ["index", "name"],
+    "visits": ["line"], "printed": ["index"], "trace": ["first", "last"],
 }
 ARGUMENTS = {
     "values.refs": {"Ref": ["number"], "Builtin": ["name"]}, "values.store": {"Store": ["lines"]},
@@ -65,7 +93,8 @@ ARGUMENTS = {
     "meaning.meaning": {"Meaning": ["tree", "lines"]}, "machine.frames": {"Frame": ["number", "scope"]},
     "machine.machine": {"Machine": ["chunks", "lines"]}, "asking.program": {"Program": ["text"]},
     "errors": {"ScriptError": ["kind", "message"], "InvalidText": ["offset", "message"],
-               "InvalidCode": ["offset", "message"]},
+               "InvalidCode": ["offset", "message"], "InvalidSave": ["offset", "message"]},
+    "live.live": {"Live": ["text"]},
 }
 CONSTANTS = {
     "names.language": ["FUNCTION_NAMES"], "names.faults": ["MOST_ARGUMENTS", "MOST_PARAMETERS", "MOST_FUNCTIONS"],
@@ -108,6 +137,13 @@ class InterfaceTest(unittest.TestCase):
                     (init,) = [node for node in found[name].body
                                if isinstance(node, ast.FunctionDef) and node.name == "__init__"]
                     self.assertEqual([argument.arg for argument in init.args.args], ["self", *arguments])
+
+    def test_arguments_of_methods(self):
+        live = definitions("live.live", ast.ClassDef)["Live"]
+        found = {node.name: [argument.arg for argument in node.args.args] for node in live.body
+                 if isinstance(node, ast.FunctionDef)}
+        for name in CLASSES["live.live"]["Live"]:
+            self.assertEqual(found[name], ["self", *LIVE.get(name, [])])
 
     def test_constants(self):
         for module, names in CONSTANTS.items():

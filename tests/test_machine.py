@@ -3,21 +3,13 @@
 import unittest
 
 from livequill.asking.program import Program
-from livequill.code.flaws import flaws_of
 from livequill.code.reading import read_code
 from livequill.code.translate import translate
 from livequill.errors import InvalidText
 from livequill.machine.machine import Machine
 from livequill.values.refs import Ref
+from machines import machine_of, state
 from runs import told_failure
-from stores import snapshot
-
-
-def machine_of(code, *lines):
-    """A machine of sound code, whose lines are parted by `/`."""
-    chunks = read_code(code.replace("/", "\n"))
-    assert flaws_of(chunks) == [], flaws_of(chunks)
-    return Machine(chunks, list(lines))
 
 
 def failure_of(code):
@@ -25,13 +17,6 @@ def failure_of(code):
     machine.run(1000)
     assert machine.state == "failed", machine.state
     return told_failure(machine.store, machine.thrown), machine.places
-
-
-def state(machine):
-    """All that is known of a machine."""
-    frames = [(frame.number, frame.at, repr(frame.scope), repr(frame.stack), repr(frame.handlers), repr(frame.made))
-              for frame in machine.frames]
-    return snapshot(machine.store), machine.steps, frames, machine.state, repr(machine.thrown), machine.places
 
 
 class StepsTest(unittest.TestCase):

@@ -36,19 +36,23 @@ def told_place(program, number, offset):
 
 def places_of(program, machine):
     """Returns the list of the places of the frames, the innermost first."""
-    return [
-        told_place(program, frame.number, offset_of(machine, frame, innermost=index == 0))
-        for index, frame in enumerate(machine.frames)
-    ]
+    calling = [calling_place(program, machine, frame) for frame in machine.frames[1:]]
+    return [innermost_place(program, machine), *calling] if machine.frames else []
 
 
-def offset_of(machine, frame, *, innermost):
-    """Returns the offset of the place of a frame within its function."""
+def innermost_place(program, machine):
+    """Returns the place of the innermost frame, which is there."""
+    frame = machine.frames[0]
     rows = machine.chunk_of(frame.number).rows
-    if not innermost:
-        return told_offset(rows[frame.at - 1])
     offsets = [told_offset(row) for row in rows[:frame.at + 1]]
-    return [0, *[offset for offset in offsets if offset is not None]][-1]
+    within = [0, *[offset for offset in offsets if offset is not None]]
+    return told_place(program, frame.number, within[-1])
+
+
+def calling_place(program, machine, frame):
+    """Returns the place of a frame that waits for a call: the instruction ahead of its next one."""
+    rows = machine.chunk_of(frame.number).rows
+    return told_place(program, frame.number, told_offset(rows[frame.at - 1]))
 
 
 def failure_of(program, machine):

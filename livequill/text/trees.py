@@ -65,26 +65,38 @@ def terms_in(shape, held):
     return []
 
 
-def without_offsets(term):
-    """Returns the term with 0 in place of all offsets."""
-    held = [bare(shape, part) for shape, part in zip(SHAPES[term[0]], term[1:])]
+def with_parts(term, action):
+    """Returns the term with what a function makes of each of the terms that it directly consists of."""
+    held = [rebuilt(shape, part, action) for shape, part in zip(SHAPES[term[0]], term[1:])]
     return (term[0], *held)
 
 
+def rebuilt(shape, held, action):
+    """Returns what stands in a place of this shape, with what a function makes of the terms in it."""
+    if shape == "term" or (shape == "option" and held is not None):
+        return action(held)
+    if shape == "terms":
+        return tuple([action(part) for part in held])
+    if shape == "pairs":
+        return tuple([(action(key), action(value)) for key, value in held])
+    if shape == "members":
+        return tuple([(offset, name, action(member)) for offset, name, member in held])
+    if shape == "methods":
+        return tuple([(name, action(method)) for name, method in held])
+    return held
+
+
+def without_offsets(term):
+    """Returns the term with 0 in place of all offsets."""
+    inner = with_parts(term, without_offsets)
+    held = [bare(shape, part) for shape, part in zip(SHAPES[inner[0]], inner[1:])]
+    return (inner[0], *held)
+
+
 def bare(shape, held):
-    """Returns what stands in a place of this shape, without offsets."""
+    """Returns what stands in a place of this shape, without the offsets that are no part of a term in it."""
     if shape == "offset":
         return 0
-    if shape == "term":
-        return without_offsets(held)
-    if shape == "option" and held is not None:
-        return without_offsets(held)
-    if shape == "terms":
-        return tuple([without_offsets(part) for part in held])
-    if shape == "pairs":
-        return tuple([(without_offsets(key), without_offsets(value)) for key, value in held])
     if shape == "members":
-        return tuple([(0, member[1], without_offsets(member[2])) for member in held])
-    if shape == "methods":
-        return tuple([(name, without_offsets(method)) for name, method in held])
+        return tuple([(0, name, member) for _, name, member in held])
     return held

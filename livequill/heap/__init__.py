@@ -1,0 +1,1 @@
+"""The objects of a machine: what refers to what, and what is lost."""

@@ -1,0 +1,1 @@
+"""Notes on programs, simpler trees and the code of them."""
