@@ -20,6 +20,7 @@ SAMPLES = [
     "for (x in [1, 2, 3]) { if (x == 2) break; else { if (x == 1) print(x); } }",
     "fun f(n) { if (n == 0) return 0; else return f(n - 1); } print(f(5)); throw f;",
     "while (true) { if (1 > 2) { break; } print(read()); }",
+    "let n = 0; while (n < 3) { n = n + 1; if (n == 1) { while (n) { break; } } else print(n); }",
     "for (a in [1, 2]) for (b in [a]) { try { if (a == b) throw a; else continue; } catch (e) { print(e); } }",
     "class A { m() { if (null) { fun gone() { } gone(); } return this; } } print(A().m() == null or 1 and 2);",
     "fun f() { throw \"a\" + \"b\"; fun g() { } } f();", "print(1 and 1 / 0);", "let a = []; while (a.length() < 3 and 1 or false) a.push(1); print(a);",
@@ -52,6 +53,15 @@ class BuildTest(unittest.TestCase):
         # The code that is not built goes to the end of the round first.
         (plain,) = translate(simpler(read_program(text)))
         self.assertEqual((plain.rows[4], plain.rows[8]), (("jump", 8), ("jump", 0)))
+
+    def test_a_break_behind_which_is_a_jump(self):
+        text = "if (print) { while (len) { break; } } else read();"
+        (chunk,) = build(read_program(text))
+        (plain,) = translate(simpler(read_program(text)))
+        end = len(chunk.rows) - 2
+        behind = plain.rows.index(("jump", end))
+        self.assertIn(("escape", 0, 0, behind), plain.rows)
+        self.assertIn(("escape", 0, 0, end), chunk.rows)
 
     def test_each_index_is_led_on(self):
         texts = [*SAMPLES, *programs(90, 60)]

@@ -216,6 +216,14 @@ class BoundTest(unittest.TestCase):
         self.assertEqual(machine.frames[0].scope[:2], (Ref(many + 1), Ref(many + 2)))
 
 
+class StackTest(unittest.TestCase):
+    def test_what_lies_below_the_operands_stays(self):
+        text = ("class A { m(x, y) { return [x, y]; } } class B extends A { m() { return [0, super.m(1, [2]), 3]; } } "
+                "let b = B(); print(5, b.m(), len(\"ab\"), -1, not 1, [7][0], {8: b.x = 9}, b.x);")
+        machine = Program(text).after([], 1000)
+        self.assertEqual(machine.store.output, ["5 [0, [1, [2]], 3] 2 -1 false 7 {8: 9} 9"])
+
+
 class WaitingTest(unittest.TestCase):
     def test_a_line_that_is_given_later(self):
         for text in ("print(read());", "let r = read; print(r());", "class A { } let a = A(); a.r = read; print(a.r());",

@@ -246,10 +246,12 @@ class AgreementTest(unittest.TestCase):
     def test_chance_programs(self):
         ends = {}
         for text in programs(2026, 150):
-            machine = agreement(text, "7", "line", most=20000)
-            ends[machine.status()] = ends.get(machine.status(), 0) + 1
-        self.assertGreater(ends.get("finished", 0), 30)
-        self.assertGreater(ends.get("failed", 0), 15)
+            for lines in (["7", "line"], []):
+                machine = agreement(text, *lines, most=20000)
+                ends[machine.status()] = ends.get(machine.status(), 0) + 1
+        self.assertGreater(ends.get("finished", 0), 60)
+        self.assertGreater(ends.get("failed", 0), 30)
+        self.assertGreater(ends.get("waiting", 0), 15)
 
 
 if __name__ == "__main__":

@@ -147,6 +147,8 @@ class HidingTest(NotesCase):
         text = "let a = 1; let b = a; b; fun f(b, a) { }"
         self.assertEqual(noted(text), [(25, USED.format("b")), (25, USED.format("a")), (25, HIDES.format("b")),
                                        (25, HIDES.format("a")), (29, USED.format("f"))])
+        text = "let x = 1; print(x, fun (len, x) { return [len, x]; });"
+        self.assertEqual(noted(text), [(20, HIDES.format("x")), (20, LANGUAGE.format("len"))])
 
 
 class ConditionsTest(NotesCase):

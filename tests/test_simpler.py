@@ -166,6 +166,7 @@ class StatementsTest(SimplerCase):
         self.check("if (x) throw 1; else throw 2; f();", "if (x) throw 1; else throw 2;")
         self.check("if (x) throw 1; f();", "if (x) throw 1; f();")
         self.check("if (x) throw 1; else y(); f();", "if (x) throw 1; else y(); f();")
+        self.check("if (x) y(); else throw 1; f();", "if (x) y(); else throw 1; f();")
         self.check("if (x) { throw 1; f(); } else { { throw 2; } 3; } f();", "if (x) { throw 1; } else { { throw 2; } }")
         self.check("if (1) throw 1; f();", "throw 1;")
         self.check("if (1) throw 1; else f(); f();", "throw 1;")

@@ -1,7 +1,8 @@
 """To which objects an object and a machine refer, and the sorts and sizes of objects."""
 
+from livequill.values.kinds import kind_of_thing
 from livequill.values.refs import Ref
-from livequill.values.things import Closure, Cursor, Instance, Kin, Parts, Table, Variable
+from livequill.values.things import Bound, Closure, Cursor, Instance, Kin, Parts, Table, Variable
 
 SORTS = ("variable", "list", "map", "instance", "class", "function", "method", "iterator")
 ERROR = 0
@@ -53,17 +54,12 @@ def sort_of(store, number):
     thing = store.things[number]
     if isinstance(thing, Variable):
         return "variable"
-    if isinstance(thing, Parts):
-        return "list"
-    if isinstance(thing, Table):
-        return "map"
-    if isinstance(thing, Instance):
-        return "instance"
-    if isinstance(thing, Kin):
-        return "class"
-    if isinstance(thing, Closure):
-        return "function"
-    return "iterator" if isinstance(thing, Cursor) else "method"
+    if isinstance(thing, Bound):
+        return "method"
+    if isinstance(thing, Cursor):
+        return "iterator"
+    # A program takes those three for functions; the other sorts are kinds of values.
+    return kind_of_thing(thing)
 
 
 def size_of(store, number):

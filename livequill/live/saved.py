@@ -44,10 +44,10 @@ def load_live(text):
     for offset, program in [parts.text, *parts.past]:
         check_program(offset, program)
     live = Live(parts.text[1])
-    for _, line in parts.lines:
+    for line in texts_of(parts.lines):
         live.feed(line)
     live.set_breaks(parts.breaks)
-    live.past.extend([program for _, program in parts.past])
+    live.past.extend(texts_of(parts.past))
     live.go(parts.steps)
     if live.steps_made() < parts.steps:
         raise InvalidSave(parts.steps_offset, "so many steps cannot be made")
@@ -72,6 +72,11 @@ class SavedParts:
         reader.take_word("past", " ")
         self.past = reader.take_texts(MOST_PAST, MOST_CHARACTERS)
         reader.check_end()
+
+
+def texts_of(pairs):
+    """Returns the list of the texts of pairs of an offset and a text."""
+    return [text for _, text in pairs]
 
 
 def check_program(start, text):

@@ -67,8 +67,10 @@ def terms_in(shape, held):
 
 def with_parts(term, action):
     """Returns the term with what a function makes of each of the terms that it directly consists of."""
-    held = [rebuilt(shape, part, action) for shape, part in zip(SHAPES[term[0]], term[1:])]
-    return (term[0], *held)
+    held = [term[0]]
+    for shape, part in zip(SHAPES[term[0]], term[1:]):
+        held.append(rebuilt(shape, part, action))
+    return tuple(held)
 
 
 def rebuilt(shape, held, action):
